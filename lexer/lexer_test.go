@@ -267,6 +267,9 @@ func TestNoScalars(t *testing.T) {
 			if strings.ToValidUTF8(all, "?") != all {
 				t.Errorf("%d: %q", v, all)
 			}
+			if k.Kind == lexer.Doctype && v != 1<<8+'&' && k.Name != "\ufffd" {
+				t.Errorf("%d as a name: %q", v, k.Name)
+			}
 		}
 	}
 }

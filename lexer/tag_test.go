@@ -73,6 +73,7 @@ func TestAttributes(t *testing.T) {
 		{"<a b=/>", `open("a" "b"="/") .`, ""},
 		{"<a b=x\tc=y\nd=z\fe=w>", `open("a" "b"="x" "c"="y" "d"="z" "e"="w") .`, ""},
 		{"<a b=\u00e9\U0001F600>", `open("a" "b"="é😀") .`, ""},
+		{"<a\U0010ffff \u0001=\U0010ffff>", `open("a\U0010ffff" "\x01"="\U0010ffff") .`, ""},
 		{"<a b='\n<!--'>", `open("a" "b"="\n<!--") .`, ""},
 	})
 }
