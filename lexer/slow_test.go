@@ -248,7 +248,7 @@ func (s *slow) tag(kind, i int) {
 	k.Name = lower(k.Name)
 	for {
 		i = s.pass(i, blanks)
-		if i == len(s.all) || s.is(i, "/") && i+1 == len(s.all) {
+		if i == len(s.all) {
 			break
 		}
 		if s.is(i, ">") || s.is(i, "/") && s.is(i+1, ">") {

@@ -42,12 +42,9 @@ func (l *Lexer) inTag() state {
 	return l.beginAttribute(c)
 }
 
+// behindSolidus: the end is no `>` either, so a `/` that stands last is told too.
 func (l *Lexer) behindSolidus() state {
-	c, ok := l.peek()
-	switch {
-	case !ok:
-		return l.endInTag()
-	case c == '>':
+	if c, ok := l.peek(); ok && c == '>' {
 		l.take()
 		l.token.Self = true
 		return l.tellTag()

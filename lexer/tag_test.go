@@ -98,9 +98,6 @@ func TestEndInTag(t *testing.T) {
 		{"x<a", `"x" .`, "eof-in-tag@1"},
 		{"x</a", `"x" .`, "eof-in-tag@1"},
 		{"<a ", `.`, "eof-in-tag@0"},
-		{"<a/", `.`, "eof-in-tag@0"},
-		{"<a//", `.`, "eof-in-tag@0 unexpected-solidus-in-tag@2"},
-		{"</a /", `.`, "eof-in-tag@0"},
 		{"</a b=1 ", `.`, "eof-in-tag@0"},
 		{"<a\x00", `.`, "unexpected-null-character@2 eof-in-tag@0"},
 		{"<a =", `.`, "eof-in-tag@0 unexpected-equals-sign-before-attribute-name@3"},
@@ -116,7 +113,7 @@ func TestEndInTag(t *testing.T) {
 		{"<a b b=", `.`, "eof-in-tag@0"},
 		{"<a b b=c", `.`, "eof-in-tag@0"},
 		{"<a b b='c", `.`, "eof-in-tag@0"},
-		{"<a b b/", `.`, "eof-in-tag@0 duplicate-attribute@5"},
+		{"<a b b/", `.`, "eof-in-tag@0 unexpected-solidus-in-tag@6 duplicate-attribute@5"},
 		{"<a b b c", `.`, "eof-in-tag@0 duplicate-attribute@5"},
 		{"<a b b=c ", `.`, "eof-in-tag@0 duplicate-attribute@5"},
 		{"<a b b='c'", `.`, "eof-in-tag@0 duplicate-attribute@5"},
@@ -125,6 +122,30 @@ func TestEndInTag(t *testing.T) {
 		{"<a b=&copy", `.`, "eof-in-tag@0 missing-semicolon-after-character-reference@5"},
 		{"<a b=&zz", `.`, "eof-in-tag@0"},
 		{"<a b=&zz;", `.`, "eof-in-tag@0 unknown-named-character-reference@5"},
+	})
+}
+
+// P5.4: a `/` that stands last in the document is one that no `>` follows, but where it belongs to a value or begins an end tag.
+func TestSolidusAtTheEnd(t *testing.T) {
+	checkRows(t, lexer.Data, "", []row{
+		{"<a/", `.`, "eof-in-tag@0 unexpected-solidus-in-tag@2"},
+		{"x<a /", `"x" .`, "eof-in-tag@1 unexpected-solidus-in-tag@4"},
+		{"</a/", `.`, "eof-in-tag@0 unexpected-solidus-in-tag@3"},
+		{"</a /", `.`, "eof-in-tag@0 unexpected-solidus-in-tag@4"},
+		{"<a//", `.`, "eof-in-tag@0 unexpected-solidus-in-tag@2 unexpected-solidus-in-tag@3"},
+		{"<a/ ", `.`, "eof-in-tag@0 unexpected-solidus-in-tag@2"},
+		{"<a b/", `.`, "eof-in-tag@0 unexpected-solidus-in-tag@4"},
+		{"<a b /", `.`, "eof-in-tag@0 unexpected-solidus-in-tag@5"},
+		{"<a =/", `.`, "eof-in-tag@0 unexpected-equals-sign-before-attribute-name@3 unexpected-solidus-in-tag@4"},
+		{"<a b='c'/", `.`, "eof-in-tag@0 unexpected-solidus-in-tag@8"},
+		{"<a b=c /", `.`, "eof-in-tag@0 unexpected-solidus-in-tag@7"},
+		{"<a b=/", `.`, "eof-in-tag@0"},
+		{"<a b=c/", `.`, "eof-in-tag@0"},
+		{"<a b='/", `.`, "eof-in-tag@0"},
+		{"</", `"</" .`, "eof-before-tag-name@0"},
+	})
+	checkRows(t, lexer.Rcdata, "title", []row{
+		{"x</title/", `"x" .`, "eof-in-tag@1 unexpected-solidus-in-tag@8"},
 	})
 }
 
